@@ -1,0 +1,1 @@
+"""Where three colours meet: coloured places of a triangle, and the rooms between them."""
