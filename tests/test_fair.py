@@ -1,9 +1,8 @@
 import itertools
 import unittest
 
+from tests.triangles import LARGEST, NoChanges
 from threecolours.rooms import fair
-
-LARGEST = 4294967295
 
 # Written out by hand: of each place, in order, the colours that are fair there.
 ALLOWED = {
@@ -38,16 +37,6 @@ def highest_row(m):
 
 def is_allowed(m, row):
     return all(str(colour) in allowed for colour, allowed in zip(row, ALLOWED[m]))
-
-
-class NoChanges(list):
-    """A list that fails on any change."""
-
-    def refuse(self, *args, **kwargs):
-        raise AssertionError("the list that was handed in is changed")
-
-    append = clear = extend = insert = pop = remove = reverse = sort = refuse
-    __setitem__ = __delitem__ = __iadd__ = __imul__ = refuse
 
 
 class FairColours(unittest.TestCase):

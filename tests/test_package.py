@@ -15,6 +15,8 @@ class Interface(unittest.TestCase):
     def test_names_of_the_arguments(self):
         self.assertEqual(str(inspect.signature(rooms.fair)), "(m, c)")
         self.assertEqual(str(inspect.signature(rooms.rooms)), "(m)")
+        self.assertEqual(str(inspect.signature(rooms.found)), "(m, c)")
+        self.assertEqual(str(inspect.signature(rooms.lines)), "(m, c)")
 
     def test_nothing_is_printed(self):
         out, err = io.StringIO(), io.StringIO()
@@ -22,6 +24,8 @@ class Interface(unittest.TestCase):
             for m in (0, 1, 9, 10):
                 rooms.fair(m, [2, 0, 1])
                 rooms.rooms(m)
+                rooms.found(m, [2, 0, 1])
+                rooms.lines(m, [2, 0, 1])
         self.assertEqual(out.getvalue() + err.getvalue(), "")
 
 

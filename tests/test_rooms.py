@@ -1,8 +1,7 @@
 import unittest
 
+from tests.triangles import LARGEST
 from threecolours.rooms import rooms
-
-LARGEST = 4294967295
 
 
 def rows_of_rooms(m):

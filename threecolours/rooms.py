@@ -1,12 +1,18 @@
-"""Fair colours of a triangle's places, and the rooms between the places."""
+"""Fair colours of a triangle's places, the rooms between the places, and the lines through the rooms."""
 
 LARGEST_SIZE = 9
-LAST_COLOUR = 2
+COLOURS = 3
 
 REFUSED_INPUT = -22
 
 UP = 1
 DOWN = 0
+
+NOTHING = 0
+
+# The colours from and to which a side leads, for one who goes round a room on the left.
+DOOR_OUT = (1, 0)
+DOOR_IN = (0, 1)
 
 
 def is_size(m):
@@ -29,7 +35,7 @@ def are_fair(m, c):
         return False
     for numbers, colour in zip(listed, c):
         # A colour is the index of the number that must not be 0, so it has to be a colour before it is looked up.
-        if colour > LAST_COLOUR or numbers[colour] == 0:
+        if colour >= COLOURS or numbers[colour] == 0:
             return False
     return True
 
@@ -44,6 +50,75 @@ def small_triangles(m):
             if i + j < m - 1:
                 listed.append((i, j, DOWN))
     return listed
+
+
+def corners_of(room):
+    """The places (i, j) at a room's corners, in the order that goes round it on the left."""
+    i = room[0]
+    j = room[1]
+    if room[2] == UP:
+        return [(i, j), (i + 1, j), (i, j + 1)]
+    return [(i + 1, j + 1), (i, j + 1), (i + 1, j)]
+
+
+def colours_by_place(m, c):
+    """The colour of each place (i, j); c must be fair colours."""
+    by_place = {}
+    for numbers, colour in zip(places(m), c):
+        by_place[(numbers[0], numbers[1])] = colour
+    return by_place
+
+
+def turn_of(colours):
+    """1 if a room's colours are all three, round on the left, 2 if the other way, 0 if they are not all three."""
+    # Round on the left each colour is 1 more than the one before, 2 being followed by 0; the other way it is 2 more.
+    # The same step twice thus tells all three apart, but for a step of 0, which is a room of one colour.
+    turn = (colours[1] - colours[0]) % COLOURS
+    if (colours[2] - colours[1]) % COLOURS == turn:
+        return turn
+    return 0
+
+
+def sides_of_points(m):
+    """Of each point of the lines its sides, each as the places from and to which it leads."""
+    listed = []
+    for room in small_triangles(m):
+        told = corners_of(room)
+        listed.append([(told[0], told[1]), (told[1], told[2]), (told[2], told[0])])
+    for i in range(m):
+        # Told against its room's way round, so that an outer side meets its room just as two rooms meet each other.
+        listed.append([((i, m - i), (i + 1, m - i - 1))])
+    return listed
+
+
+def points_by_side(sides_listed):
+    """The number of the point that has a side, as the side leads there."""
+    by_side = {}
+    for point, sides in enumerate(sides_listed):
+        for side in sides:
+            by_side[side] = point
+    return by_side
+
+
+def beyond(sides, door, by_place, by_side):
+    """One more than the point beyond the one of the sides that is such a door, 0 if none is."""
+    for start, stop in sides:
+        if (by_place[start], by_place[stop]) == door:
+            # Fair colours leave no door on the triangle's other two sides, so behind every door there is a point.
+            return by_side[(stop, start)] + 1
+    return NOTHING
+
+
+def row_of_lines(m, c):
+    """Of each point one more than what's next and one more than what's before; c must be fair colours."""
+    by_place = colours_by_place(m, c)
+    sides_listed = sides_of_points(m)
+    by_side = points_by_side(sides_listed)
+    row = []
+    for sides in sides_listed:
+        row.append(beyond(sides, DOOR_OUT, by_place, by_side))
+        row.append(beyond(sides, DOOR_IN, by_place, by_side))
+    return row
 
 
 def fair(m, c):
@@ -62,3 +137,26 @@ def rooms(m):
     for room in listed:
         answer.extend(room)
     return answer
+
+
+def found(m, c):
+    """In how many rooms all three meet, then of each its number and 1 or 2 for the way round; -22 if refused."""
+    if not is_size(m) or not are_fair(m, c):
+        return [REFUSED_INPUT]
+    by_place = colours_by_place(m, c)
+    told = []
+    count = 0
+    for number, room in enumerate(small_triangles(m)):
+        turn = turn_of([by_place[place] for place in corners_of(room)])
+        if turn > 0:
+            told.extend([number, turn])
+            count += 1
+    return [count] + told
+
+
+def lines(m, c):
+    """How many numbers the row of the lines has, then these; -22 if refused."""
+    if not is_size(m) or not are_fair(m, c):
+        return [REFUSED_INPUT]
+    row = row_of_lines(m, c)
+    return [len(row)] + row
