@@ -17,6 +17,8 @@ class Interface(unittest.TestCase):
         self.assertEqual(str(inspect.signature(rooms.rooms)), "(m)")
         self.assertEqual(str(inspect.signature(rooms.found)), "(m, c)")
         self.assertEqual(str(inspect.signature(rooms.lines)), "(m, c)")
+        self.assertEqual(str(inspect.signature(rooms.first)), "(m, c)")
+        self.assertEqual(str(inspect.signature(rooms.other)), "(m, k, c)")
 
     def test_nothing_is_printed(self):
         out, err = io.StringIO(), io.StringIO()
@@ -26,6 +28,9 @@ class Interface(unittest.TestCase):
                 rooms.rooms(m)
                 rooms.found(m, [2, 0, 1])
                 rooms.lines(m, [2, 0, 1])
+                rooms.first(m, [2, 0, 1])
+                for k in (0, 1, 2):
+                    rooms.other(m, k, [2, 0, 1])
         self.assertEqual(out.getvalue() + err.getvalue(), "")
 
 

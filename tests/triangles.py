@@ -1,4 +1,4 @@
-"""What several test files need: rows of colours, and found and lines worked out another way than the program does."""
+"""What several test files need: rows of colours, and answers worked out another way than the program does."""
 
 import itertools
 
@@ -60,6 +60,22 @@ def side_row(m, colours):
     return row_with(m, {(i, m - i): colour for i, colour in enumerate(colours)})
 
 
+def inner_row(m, colour, wished):
+    """Fair colours with this one at all inner places."""
+    return row_with(m, {place: colour for place in places(m) if is_inner(m, place)}, wished)
+
+
+def comb_row(m):
+    """Teeth of 1 from one side and teeth of 0 from the other, row by row, so that one line winds through them all."""
+    row = []
+    for i, j in places(m):
+        if i == 0:
+            row.append(1 if j > 0 else 2)
+        else:
+            row.append(1 if j % 2 == 1 and i + j < m else 0)
+    return row
+
+
 def numbered_rooms(m):
     """The corners of each room as a set, in the order of the rooms."""
     listed = []
@@ -114,6 +130,36 @@ def expected_lines(m, row):
     return [len(numbers)] + numbers
 
 
+def expected_ways(m, row):
+    """Of each end the points to its other end: neighbours by their distance, whichever way the doors lead."""
+    numbers = expected_lines(m, row)[1:]
+    neighbours = [[number - 1 for number in numbers[k:k + 2] if number > 0] for k in range(0, len(numbers), 2)]
+    ways = {}
+    for start, near in enumerate(neighbours):
+        if len(near) == 1:
+            distance = {start: 0}
+            waiting = [start]
+            for point in waiting:
+                for reached in neighbours[point]:
+                    if reached not in distance:
+                        distance[reached] = distance[point] + 1
+                        waiting.append(reached)
+            ways[start] = sorted(distance, key=distance.get)
+    return ways
+
+
+def expected_first(m, row):
+    """By the doors of the outer sides: a 0 nearer to (m, 0) than a 1 lets in."""
+    colour = dict(zip(places(m), row))
+    ways = expected_ways(m, row)
+    for side in range(m):
+        if (colour[(side + 1, m - side - 1)], colour[(side, m - side)]) == (0, 1):
+            reached = ways[m * m + side][-1]
+            if reached < m * m:
+                return [reached]
+    return [-33]
+
+
 def fair_calls():
     """Sizes and fair rows of many kinds, the corners that the document names among them."""
     calls = [(m, row) for m in (1, 2, 3) for row in all_rows(m)]
@@ -122,8 +168,7 @@ def fair_calls():
         calls += [(m, row_with(m, {}, wished)) for wished in itertools.permutations(range(3))]
         # All inner places of one colour, whatever stands round them.
         for colour in range(3):
-            inner = {place: colour for place in places(m) if is_inner(m, place)}
-            calls += [(m, row_with(m, inner, wished)) for wished in itertools.permutations(range(3))]
+            calls += [(m, inner_row(m, colour, wished)) for wished in itertools.permutations(range(3))]
         # As many doors as the outer sides can have, the one at each corner among them.
         calls.append((m, side_row(m, [1] + [i % 2 for i in range(m - 1)] + [0])))
         calls.append((m, side_row(m, [1] + [1 - i % 2 for i in range(m - 1)] + [0])))
@@ -131,6 +176,7 @@ def fair_calls():
     # A round: a 0 with 1 all round it, and a 1 with 0 all round it.
     calls += [(m, row_with(m, {(1, 2): 0}, (1, 2, 0))) for m in range(4, 10)]
     calls += [(m, row_with(m, {(2, 1): 1}, (0, 2, 1))) for m in range(4, 10)]
+    calls += [(m, comb_row(m)) for m in range(1, 10)]
     return calls
 
 
@@ -150,4 +196,15 @@ def refused_calls():
             calls += [(m, row[:-1]), (m, row[1:]), (m, row + [0]), (m, row + [1]), (m, row + [LARGEST]), (m, [])]
             calls += [(m, (row * 200)[:200]), (m, row + [0] * (200 - len(row))), (m, [LARGEST] * 200)]
             calls += [(other, row) for other in range(1, 10) if other != m]
+    return calls
+
+
+def refused_calls_with_points():
+    """The same with points that would be there and points that wouldn't; m * m + m is how many a size has."""
+    calls = []
+    for m, row in refused_calls():
+        points = [0, 1, LARGEST]
+        if m < 10:
+            points += [m * m, m * m + m - 1, m * m + m]
+        calls += [(m, k, row) for k in points]
     return calls

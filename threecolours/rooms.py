@@ -4,11 +4,17 @@ LARGEST_SIZE = 9
 COLOURS = 3
 
 REFUSED_INPUT = -22
+REFUSED_POINT = -2
+REFUSED_END = -33
 
 UP = 1
 DOWN = 0
 
 NOTHING = 0
+
+# Where, of a point's two numbers in the row of the lines, the one stands that is followed.
+ON = 0
+BACK = 1
 
 # The colours from and to which a side leads, for one who goes round a room on the left.
 DOOR_OUT = (1, 0)
@@ -121,6 +127,61 @@ def row_of_lines(m, c):
     return row
 
 
+def step_from(row, point, direction):
+    """One more than the point to which a step leads, on from this one or back from it, 0 if none does."""
+    told = row[2 * point + direction]
+    # Both have to say so: then no two steps lead to one point, and who sets out from an end can't go round for ever.
+    if told != NOTHING and row[2 * (told - 1) + 1 - direction] == point + 1:
+        return told
+    return NOTHING
+
+
+def begins(row, point):
+    return step_from(row, point, ON) != NOTHING and step_from(row, point, BACK) == NOTHING
+
+
+def stops(row, point):
+    return step_from(row, point, BACK) != NOTHING and step_from(row, point, ON) == NOTHING
+
+
+def is_end(row, point):
+    return begins(row, point) or stops(row, point)
+
+
+def line_from(row, end):
+    """The points from an end to its other end."""
+    direction = ON if begins(row, end) else BACK
+    points = [end]
+    told = step_from(row, end, direction)
+    while told != NOTHING:
+        points.append(told - 1)
+        told = step_from(row, told - 1, direction)
+    return points
+
+
+def first_room(m, row):
+    """The room to which a line leads from the first outer side from which one does, -33 if from none."""
+    count = len(small_triangles(m))
+    for side in range(count, count + m):
+        if begins(row, side):
+            reached = line_from(row, side)[-1]
+            if reached < count:
+                return reached
+    return REFUSED_END
+
+
+def line_or_refusal(m, k, c):
+    """The points from k to its other end, or the number of the refusal alone."""
+    if not is_size(m) or not are_fair(m, c):
+        return [REFUSED_INPUT]
+    row = row_of_lines(m, c)
+    if 2 * k >= len(row):
+        return [REFUSED_POINT]
+    if not is_end(row, k):
+        return [REFUSED_END]
+    return line_from(row, k)
+
+
 def fair(m, c):
     """1 if c are fair colours, else 0; -22 if m isn't 1 to 9."""
     if not is_size(m):
@@ -160,3 +221,18 @@ def lines(m, c):
         return [REFUSED_INPUT]
     row = row_of_lines(m, c)
     return [len(row)] + row
+
+
+def first(m, c):
+    """The room at the other end of the first outer side at which a line to a room begins; -22 or -33 if refused."""
+    if not is_size(m) or not are_fair(m, c):
+        return [REFUSED_INPUT]
+    return [first_room(m, row_of_lines(m, c))]
+
+
+def other(m, k, c):
+    """The other end of point k, then how many steps lead there; -22, -2 or -33 if refused."""
+    line = line_or_refusal(m, k, c)
+    if line[0] < 0:
+        return line
+    return [line[-1], len(line) - 1]
