@@ -112,8 +112,9 @@ class NoRoom(unittest.TestCase):
         self.assertEqual(first_room(1, [0, 0, 0, 0]), -33)
 
     def test_line_from_side_to_side_alone(self):
-        # 4, 3, 5: in by one outer side and out by the other.
+        # 4, 3, 5, and 5, 3, 4: in by one outer side and out by the other.
         self.assertEqual(first_room(2, [0, 0, 0, 0, 0, 0, 6, 5, 4, 0, 0, 4]), -33)
+        self.assertEqual(first_room(2, [0, 0, 0, 0, 0, 0, 5, 6, 0, 4, 4, 0]), -33)
 
     def test_line_that_stops_at_a_side(self):
         # From room 0 to the outer side, where no line begins.

@@ -151,7 +151,7 @@ class Steps(unittest.TestCase):
                 self.assertFalse(is_end(row, point), row)
 
     def test_two_say_that_the_same_is_next(self):
-        # Points 0 and 1 both say 2 is next, and 2 says 1 is before it; the step to 0 is none.
+        # Points 0 and 1 both say 2 is next, and 2 says 1 is before it; so from 0 no step leads.
         row = [3, 0, 3, 0, 0, 2]
         self.assertEqual([is_end(row, point) for point in (0, 1, 2)], [False, True, True])
         self.assertEqual(line_from(row, 1), [1, 2])

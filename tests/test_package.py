@@ -19,6 +19,8 @@ class Interface(unittest.TestCase):
         self.assertEqual(str(inspect.signature(rooms.lines)), "(m, c)")
         self.assertEqual(str(inspect.signature(rooms.first)), "(m, c)")
         self.assertEqual(str(inspect.signature(rooms.other)), "(m, k, c)")
+        self.assertEqual(str(inspect.signature(rooms.way)), "(m, k, c)")
+        self.assertEqual(str(inspect.signature(rooms.corners)), "(m, k)")
 
     def test_nothing_is_printed(self):
         out, err = io.StringIO(), io.StringIO()
@@ -31,6 +33,8 @@ class Interface(unittest.TestCase):
                 rooms.first(m, [2, 0, 1])
                 for k in (0, 1, 2):
                     rooms.other(m, k, [2, 0, 1])
+                    rooms.way(m, k, [2, 0, 1])
+                    rooms.corners(m, k)
         self.assertEqual(out.getvalue() + err.getvalue(), "")
 
 

@@ -236,3 +236,24 @@ def other(m, k, c):
     if line[0] < 0:
         return line
     return [line[-1], len(line) - 1]
+
+
+def way(m, k, c):
+    """How many points, then the line from point k to its other end; -22, -2 or -33 if refused."""
+    line = line_or_refusal(m, k, c)
+    if line[0] < 0:
+        return line
+    return [len(line)] + line
+
+
+def corners(m, k):
+    """9, then of each corner of room k, on the left round it, its three numbers; -22 or -2 if refused."""
+    if not is_size(m):
+        return [REFUSED_INPUT]
+    listed = small_triangles(m)
+    if k >= len(listed):
+        return [REFUSED_POINT]
+    numbers = []
+    for i, j in corners_of(listed[k]):
+        numbers.extend([i, j, m - i - j])
+    return [len(numbers)] + numbers
